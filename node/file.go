@@ -15,7 +15,7 @@ type File struct {
 	Chunks []api.Hash
 }
 
-// PutFile: x as an object. BadArg: x is not right.
+// PutFile: x as an object. BadArg: x is not right, or has more chunks than an object has room for.
 func PutFile(x File) (store.Object, api.Fault) {
 	if !x.right() {
 		return store.Object{}, api.BadArg

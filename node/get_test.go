@@ -25,7 +25,7 @@ func TestP1402GetDir(t *testing.T) {
 
 // Another kind is told ahead of what the Body is.
 func TestP1402OtherKinds(t *testing.T) {
-	bodies := [][]byte{nil, {}, {1}, []byte("x"), {3, 0, 0}, {3, 0, 1}, fileForm(file(2, 1)), fileForm(file(2, 3)), dirForm(several()...), dirForm(many(61)...), make([]byte, 4096), make([]byte, 4097)}
+	bodies := [][]byte{nil, {}, {1}, []byte("x"), {3, 0, 0}, {3, 0, 1}, fileForm(file(2, 1)), fileForm(file(2, 3)), dirForm(several()...), dirForm(many(61)...), make([]byte, 4096), make([]byte, 4097), fileForm(file(2000, 142)), fileForm(file(143, 143)), fileForm(file(2000, 1872)), dirForm(many(80)...), make([]byte, 5001)}
 	for _, b := range bodies {
 		for _, kind := range otherKinds(2) {
 			noFile(t, fmt.Sprint("kind ", kind), kind, b, api.BadArg)
@@ -46,6 +46,22 @@ func TestP1402FormsOfWhatIsNotRight(t *testing.T) {
 	for what, l := range wrongDirs() {
 		if b := dirForm(l...); len(b) <= 65538 {
 			noDir(t, what, 3, b, api.Malformed)
+		}
+	}
+}
+
+// Of each number of chunks that a form has room for, with the smallest Size that has so many
+// and with the greatest: a Body of more bytes than an object has is no file's.
+func TestP1402FilesOfMoreThanAnObject(t *testing.T) {
+	all := hashes(1872)
+	for n := 1; n <= len(all); n++ {
+		for _, size := range []int{n, api.MaxFile} {
+			x := node.File{Size: size, Chunks: all[:n]}
+			if n > mostChunks {
+				noFile(t, toldFile(x), 2, fileForm(x), api.Malformed)
+			} else {
+				getsFile(t, toldFile(x), fileForm(x), x)
+			}
 		}
 	}
 }
@@ -257,6 +273,8 @@ func TestP1402OtherBytes(t *testing.T) {
 func FuzzGet(f *testing.F) {
 	f.Add(fileForm(file(0, 0)))
 	f.Add(fileForm(file(300, 2)))
+	f.Add(fileForm(file(2000, 142)))
+	f.Add(fileForm(file(143, 143)))
 	f.Add(dirForm())
 	f.Add(dirForm(several()...))
 	f.Fuzz(func(t *testing.T, b []byte) {

@@ -133,6 +133,39 @@ func TestP1405WhatIsSortedIsPut(t *testing.T) {
 	}
 }
 
+// What PutFile answers is an object for a store, too, up to the last chunk that has room, and
+// beyond it nothing is answered that a store could refuse.
+func TestP1405FilesThatAStoreTakes(t *testing.T) {
+	fs, _ := simfs.New(api.MaxDisk)
+	s, f := store.Open(fs)
+	if f != api.OK {
+		t.Fatalf("fault %d", f)
+	}
+	for n := mostChunks - 2; n <= mostChunks+3; n++ {
+		for _, size := range []int{n, api.MaxFile} {
+			x := file(size, n)
+			o, f := node.PutFile(x)
+			if f != api.OK {
+				noObject(t, toldFile(x), o, f)
+				continue
+			}
+			h, f := s.Put(o)
+			if f != api.OK {
+				t.Errorf("%s: the store's fault %d", toldFile(x), f)
+				continue
+			}
+			got, f := s.Get(h)
+			if f != api.OK {
+				t.Errorf("%s: got with fault %d", toldFile(x), f)
+			}
+			getsFile(t, "through a store", got.Body, x)
+		}
+	}
+	if s.Pending() != 6 {
+		t.Errorf("%d files, not 6, were taken", s.Pending())
+	}
+}
+
 // A store keeps a chunk, a file and a directory, each by the name that the next one has in it.
 func TestP1405ThroughAStore(t *testing.T) {
 	fs, _ := simfs.New(api.MaxDisk)

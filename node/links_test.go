@@ -29,8 +29,20 @@ func TestP1403LinksOfFiles(t *testing.T) {
 	a, b := api.Hash{31: 1}, api.Hash{1}
 	links(t, "falling", 2, fileForm(node.File{Size: 9, Chunks: []api.Hash{b, a}}), b, a)
 	links(t, "some twice", 2, fileForm(node.File{Size: 9, Chunks: []api.Hash{a, b, a, a, {}}}), a, b, a, a, api.Hash{})
-	links(t, "many", 2, fileForm(file(2000, 142)), hashes(142)...)
-	links(t, "as many as a form has room for", 2, fileForm(file(2000, 1872)), hashes(1872)...)
+	links(t, "many", 2, fileForm(file(2000, 125)), hashes(125)...)
+}
+
+// As many as an object has room for, and one more, with the smallest Size and the greatest.
+func TestP1403LinksOfFilesOfMoreThanAnObject(t *testing.T) {
+	links(t, "142, Size 142", 2, fileForm(file(142, 142)), hashes(142)...)
+	links(t, "142, Size 2000", 2, fileForm(file(2000, 142)), hashes(142)...)
+	for _, n := range []int{143, 144, 200, 1871, 1872} {
+		noLinks(t, fmt.Sprint(n, " chunks"), 2, fileForm(file(n, n)), api.Malformed)
+		noLinks(t, fmt.Sprint(n, " chunks, Size 2000"), 2, fileForm(file(2000, n)), api.Malformed)
+	}
+	for _, kind := range otherKinds(1, 2, 3) {
+		noLinks(t, fmt.Sprint("143 chunks, kind ", kind), kind, fileForm(file(143, 143)), api.BadArg)
+	}
 }
 
 // In the order of the entries, of files and of directories, and each as often as it is there.

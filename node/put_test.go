@@ -47,13 +47,13 @@ func TestP1401PutFileByteForByte(t *testing.T) {
 	}
 }
 
-// rightFiles: at the edges; the last has as many chunks as a form has room for.
+// rightFiles: at the edges; 142 chunks are as many as an object has room for.
 func rightFiles() []node.File {
 	return []node.File{
 		{}, {Chunks: []api.Hash{}},
 		file(1, 1), file(2, 1), file(2, 2), file(3, 1), file(3, 2), file(3, 3), file(16, 1), file(60, 60), file(64, 61),
-		file(142, 142), file(143, 143), file(255, 9), file(256, 256), file(1999, 1), file(1999, 90),
-		file(2000, 1), file(2000, 32), file(2000, 125), file(1872, 1871), file(1872, 1872), file(2000, 1872),
+		file(141, 141), file(142, 141), file(142, 142), file(143, 142), file(255, 9), file(255, 142), file(256, 142), file(1999, 1), file(1999, 90),
+		file(2000, 1), file(2000, 32), file(2000, 125), file(2000, 141), file(2000, 142),
 		{Size: 5, Chunks: []api.Hash{{}, {}, {}}},
 		{Size: 9, Chunks: []api.Hash{named(2), named(1), named(2), named(2)}},
 	}
@@ -66,6 +66,8 @@ func wrongFiles() []node.File {
 		file(1, 0), {Size: 1, Chunks: []api.Hash{}}, file(1, 2), file(1, 3),
 		file(2, 0), file(2, 3), file(9, 10), file(60, 61), file(1000, 0), file(1000, 1001), file(1999, 2000),
 		file(2000, 0), file(2000, 2001), file(2000, 4000), file(2000, 65536), file(2000, 65537),
+		file(143, 143), file(144, 143), file(255, 143), file(256, 143), file(2000, 143), file(144, 144), file(2000, 144), file(256, 256),
+		file(1872, 1871), file(1872, 1872), file(2000, 1872), file(1873, 1873), file(2000, 1873), file(2000, 2000),
 	}
 	for _, n := range []int{2001, 2002, 4000, 65535, 65536, 65537, 1<<32 + 1, math.MaxInt32, math.MaxInt - 1, math.MaxInt, -1, -2, -2000, math.MinInt32, math.MinInt + 1, math.MinInt} {
 		l = append(l, file(n, 0), file(n, 1), file(n, 2), file(n, 2001))
@@ -98,11 +100,39 @@ func TestP1401PutFileOfWrongFiles(t *testing.T) {
 	}
 }
 
-// More chunks than the two bytes of a form's length can tell: there is no such object.
-func TestP1401PutFileOfMoreThanAForm(t *testing.T) {
-	for _, n := range []int{1873, 1999, 2000} {
-		o, f := node.PutFile(file(n, n))
-		noObject(t, fmt.Sprint(n, " chunks"), o, f)
+// mostChunks: of a file that an object has room for.
+const mostChunks = 142
+
+// Of each number of chunks, with the smallest Size that has so many and with the greatest: a
+// Body of more bytes than an object has is none's, whether a form has room for it or not.
+func TestP1401PutFileOfMoreThanAnObject(t *testing.T) {
+	all := hashes(api.MaxFile)
+	for n := 1; n <= api.MaxFile; n++ {
+		for _, size := range []int{n, api.MaxFile} {
+			x := node.File{Size: size, Chunks: all[:n]}
+			o, f := node.PutFile(x)
+			if n > mostChunks {
+				noObject(t, toldFile(x), o, f)
+			} else {
+				isObject(t, toldFile(x), o, f, 2, fileForm(x))
+			}
+		}
+	}
+}
+
+// The two Bodies at the edge have just so many bytes, whatever the hashes are.
+func TestP1401PutFileThatJustFits(t *testing.T) {
+	for size, want := range map[int]int{142: 4980, 255: 4980, 256: 4981, 2000: 4981} {
+		for _, l := range [][]api.Hash{hashes(mostChunks), make([]api.Hash, mostChunks)} {
+			o, f := node.PutFile(node.File{Size: size, Chunks: l})
+			if f != api.OK || o.Kind != 2 || len(o.Body) != want {
+				t.Errorf("Size %d: fault %d, kind %d, %d bytes; not %d", size, f, o.Kind, len(o.Body), want)
+			}
+		}
+	}
+	for _, size := range []int{143, 255, 256, 2000} {
+		o, f := node.PutFile(node.File{Size: size, Chunks: make([]api.Hash, mostChunks+1)})
+		noObject(t, fmt.Sprint("143 chunks, Size ", size), o, f)
 	}
 }
 

@@ -30,11 +30,12 @@ func wordsRight(l []node.Entry) bool {
 	return len(l) <= 60
 }
 
+// wordsRightFile: whether x is right, and has a Body of no more bytes than an object has.
 func wordsRightFile(x node.File) bool {
 	if x.Size == 0 {
 		return len(x.Chunks) == 0
 	}
-	return 0 < x.Size && x.Size <= 2000 && 1 <= len(x.Chunks) && len(x.Chunks) <= x.Size
+	return 0 < x.Size && x.Size <= 2000 && 1 <= len(x.Chunks) && len(x.Chunks) <= x.Size && len(fileForm(x)) <= 5000
 }
 
 // take: what a form of that tag has in it, which b begins with, and what is behind.
@@ -195,10 +196,15 @@ func anyRight(r *rand.Rand) []node.Entry {
 	return l[:min(len(l), 60)]
 }
 
-// anyFile: of a Size about 0 to 2000, most of them right.
+// anyFile: of a Size about 0 to 2000, most of them right, some with about as many chunks as
+// an object has room for.
 func anyFile(r *rand.Rand) node.File {
 	x := node.File{Size: []int{r.Intn(4), r.Intn(80), 1950 + r.Intn(60), r.Intn(2001)}[r.Intn(4)]}
-	for range r.Intn(min(x.Size, 70) + 2) {
+	n := r.Intn(min(x.Size, 70) + 2)
+	if r.Intn(20) == 0 {
+		n = 138 + r.Intn(9)
+	}
+	for range n {
 		x.Chunks = append(x.Chunks, anyHash(r))
 	}
 	return x
